@@ -2,6 +2,7 @@ package flow
 
 import (
 	"minikin/api"
+	"minikin/small"
 )
 
 // Limits of networks and boards.
@@ -69,15 +70,15 @@ func areTwo(a, b, n int) bool {
 }
 
 // across returns the capacity of a set: what can go from it to other places.
-func across(p plan, side set) int64 {
+func across(p plan, side small.Set) int64 {
 	sum := int64(0)
 	_, steps := p.size()
 	for i := range steps {
 		from, to, there, back := p.step(i)
-		if side.has(from) && !side.has(to) {
+		if side.Has(from) && !side.Has(to) {
 			sum += there
 		}
-		if side.has(to) && !side.has(from) {
+		if side.Has(to) && !side.Has(from) {
 			sum += back
 		}
 	}

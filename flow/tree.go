@@ -4,6 +4,7 @@ import (
 	"math"
 
 	"minikin/api"
+	"minikin/small"
 )
 
 // Branch joins two places of a tree.
@@ -17,7 +18,7 @@ func Least(b Board, s, t int) (int64, api.Errno) {
 	if e := checkEnds(b, s, t); e != api.OK {
 		return 0, e
 	}
-	return lay(b, one(s), t).fill(), api.OK
+	return lay(b, small.One(s), t).fill(), api.OK
 }
 
 // Tree returns a tree for b.
@@ -32,13 +33,13 @@ func Tree(b Board) ([]Branch, api.Errno) {
 	for p := 1; p < b.Places; p++ {
 		q := above[p]
 		side, capacity := firstCut(b, p, q)
-		for x := range (side &^ one(p)).places() {
+		for x := range (side &^ small.One(p)).All() {
 			if above[x] == q {
 				above[x] = p
 			}
 		}
 		weight[p] = capacity
-		if side.has(above[q]) {
+		if side.Has(above[q]) {
 			above[p], above[q] = above[q], p
 			weight[p], weight[q] = weight[q], capacity
 		}
@@ -74,7 +75,7 @@ func Between(l []Branch, a, b int) (int64, api.Errno) {
 	}
 	least := int64(math.MaxInt64)
 	for i, x := range l {
-		if !reach(l, a, i).has(b) {
+		if !reach(l, a, i).Has(b) {
 			least = min(least, x.Weight)
 		}
 	}
@@ -91,16 +92,16 @@ func joins(l []Branch) bool {
 			return false
 		}
 	}
-	return reach(l, 0, -1) == below(len(l)+1)
+	return reach(l, 0, -1) == small.Below(len(l)+1)
 }
 
 // reach returns the places to which the branches but number without lead from place from.
-func reach(l []Branch, from, without int) set {
-	met := one(from)
+func reach(l []Branch, from, without int) small.Set {
+	met := small.One(from)
 	for range l { // each round meets one more place at least, while there are any
 		for i, x := range l {
-			if i != without && met.has(x.A) != met.has(x.B) {
-				met |= one(x.A) | one(x.B)
+			if i != without && met.Has(x.A) != met.Has(x.B) {
+				met |= small.One(x.A) | small.One(x.B)
 			}
 		}
 	}
@@ -112,21 +113,21 @@ func Weakest(b Board) (int64, []int, api.Errno) {
 	if e := check(b); e != api.OK {
 		return 0, nil, e
 	}
-	in := one(0)
+	in := small.One(0)
 	least := narrowest(b, in)
 	// A list comes before those that it begins, and those that go on with a place before those that leave it out.
 	for p := 1; across(b, in) != least; p++ {
-		if narrowest(b, in|one(p)) == least {
-			in |= one(p)
+		if narrowest(b, in|small.One(p)) == least {
+			in |= small.One(p)
 		}
 	}
-	return least, in.list(), api.OK
+	return least, in.List(), api.OK
 }
 
 // narrowest returns the least capacity of a set that has all places of in, and not all of the board; more than any capacity if there is none.
-func narrowest(b Board, in set) int64 {
+func narrowest(b Board, in small.Set) int64 {
 	least := int64(math.MaxInt64)
-	for p := range (below(b.Places) &^ in).places() {
+	for p := range (small.Below(b.Places) &^ in).All() {
 		least = min(least, lay(b, in, p).fill())
 	}
 	return least

@@ -4,6 +4,7 @@ import (
 	"slices"
 
 	"minikin/api"
+	"minikin/small"
 )
 
 // Apart returns as many ways from s to t as there can be without a common arc, and as many arcs, of which each way from s to t has one.
@@ -15,7 +16,7 @@ func Apart(n Net, s, t int) (ways [][]int, arcs []int, e api.Errno) {
 	for i := range equal.Arcs {
 		equal.Arcs[i].Cap = 1
 	}
-	w := lay(&equal, one(s), t)
+	w := lay(&equal, small.One(s), t)
 	number := w.fill()
 	flow := w.taken(len(equal.Arcs))
 	for range number {
@@ -23,7 +24,7 @@ func Apart(n Net, s, t int) (ways [][]int, arcs []int, e api.Errno) {
 	}
 	side := w.near()
 	for i, a := range equal.Arcs {
-		if side.has(a.From) && !side.has(a.To) {
+		if side.Has(a.From) && !side.Has(a.To) {
 			arcs = append(arcs, i)
 		}
 	}
@@ -71,13 +72,13 @@ func AreApart(n Net, s, t int, ways [][]int) bool {
 
 // isWay reports whether way leads from s to t without a place twice.
 func isWay(n Net, s, t int, way []int) bool {
-	at, met := s, one(s)
+	at, met := s, small.One(s)
 	for _, i := range way {
-		if i < 0 || i >= len(n.Arcs) || n.Arcs[i].From != at || met.has(n.Arcs[i].To) {
+		if i < 0 || i >= len(n.Arcs) || n.Arcs[i].From != at || met.Has(n.Arcs[i].To) {
 			return false
 		}
 		at = n.Arcs[i].To
-		met |= one(at)
+		met |= small.One(at)
 	}
 	return at == t
 }

@@ -2,6 +2,8 @@ package flow
 
 import (
 	"math"
+
+	"minikin/small"
 )
 
 // half is one direction of a step, with the room that a flow leaves in it.
@@ -19,10 +21,10 @@ type works struct {
 }
 
 // lay returns the works of p without a flow. All places of from are one, the source.
-func lay(p plan, from set, to int) *works {
-	w := &works{source: from.first(), sink: to}
+func lay(p plan, from small.Set, to int) *works {
+	w := &works{source: from.First(), sink: to}
 	at := func(place int) int {
-		if from.has(place) {
+		if from.Has(place) {
 			return w.source
 		}
 		return place
@@ -109,19 +111,19 @@ func (w *works) taken(n int) []int64 {
 }
 
 // near returns the places to which there is room from the source, when the works are full.
-func (w *works) near() set {
-	side := set(0)
+func (w *works) near() small.Set {
+	side := small.Set(0)
 	for place, level := range w.level {
 		if level > 0 {
-			side |= one(place)
+			side |= small.One(place)
 		}
 	}
 	return side
 }
 
 // firstCut returns the cut of s and t of least capacity that is a subset of all others, and this capacity.
-func firstCut(p plan, s, t int) (set, int64) {
-	w := lay(p, one(s), t)
+func firstCut(p plan, s, t int) (small.Set, int64) {
+	w := lay(p, small.One(s), t)
 	capacity := w.fill()
 	return w.near(), capacity
 }
