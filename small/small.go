@@ -1,4 +1,4 @@
-// Package small has sets of numbers from 0 to 63. The layers use it for sets of places, points, posts, things, states and machines.
+// Package small has sets of numbers from 0 to 63. The layers use it for sets of places, points, posts, things, states, machines and variables.
 package small
 
 import (
