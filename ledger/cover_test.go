@@ -310,18 +310,19 @@ func TestCore(t *testing.T) {
 	}
 }
 
-// TestLeast: P9.8 against all questions of less atoms, of any terms, where there are few.
+// TestLeast: P9.8 against all questions of one or two atoms, for some p that need three.
 func TestLeast(t *testing.T) {
 	m := newMaker(11)
 	var all [][]int
 	lists([]int{0, 1, 2, 3, 10}, 2, func(l []int) { all = append(all, append([]int{0}, l...)) })
-	for range 60 {
+	for done := 0; done < 20; {
 		p := m.question([]int{2}, 3, 3)
 		p.Head = p.Head[:min(1, len(p.Head))]
 		got, _ := ledger.Core(p, []int{2})
 		if len(got.Atoms) < 3 {
 			continue
 		}
+		done++
 		for _, a := range all {
 			for _, b := range all {
 				for head := range 4 {
